@@ -157,12 +157,18 @@ func TestOneVoteOfAllShortRows(t *testing.T) {
 func TestCommonIsHad(t *testing.T) {
 	r := row(6)
 	for range 20000 {
-		voters, at := r.voters(), r.numbers(7, 0, 1, 2, 3, 4, 7, 8, 9, 100, maxCount)
-		have := func(i int) []int { // the stores that have an index
+		voters, at := r.voters(), r.numbers(9, 0, 1, 2, 3, 4, 7, 8, 9, 100, maxCount)
+		if r.next(2) == 0 { // those that may not be, too
+			voters = r.numbers(6, 0, 1, 4, 5, 6, 7, 8, 9)
+		}
+		if len(voters) == 0 {
+			continue
+		}
+		have := func(i int) []int { // the numbers that have an index
 			var l []int
-			for store := 1; store <= maxStores; store++ {
-				if mindIndex(store, at) >= i {
-					l = append(l, store)
+			for n := range 10 {
+				if mindIndex(n, at) >= i {
+					l = append(l, n)
 				}
 			}
 			return l

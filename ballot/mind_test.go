@@ -38,12 +38,14 @@ func mindWon(voters, votes []int) bool {
 	return moreThanHalf(voters, func(v int) bool { return slices.Contains(votes, v) })
 }
 
-// mindIndex is a voter's index.
+// mindIndex is a voter's index: at[i] is that of the voter i + 1, and 0, if there is none.
 func mindIndex(voter int, at []int) int {
-	if voter < 1 || voter > min(maxStores, len(at)) {
-		return 0
+	for i, index := range at {
+		if i+1 == voter {
+			return index
+		}
 	}
-	return at[voter-1]
+	return 0
 }
 
 // haveAsMuch says whether a majority has an index.

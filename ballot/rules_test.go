@@ -59,6 +59,8 @@ func TestLongLists(t *testing.T) {
 	mustHaveCommon(t, list(1, 2, 3), down, many-1)
 	mustHaveCommon(t, up, nil, 0)
 	mustHaveCommon(t, down, list(9, 9, 9, 9, 9), 0)
+	mustHaveCommon(t, up, down, many/2)
+	mustHaveCommon(t, down, up[:many-10], many/2-10)
 	mustNotTurn(t, up, 1, api.ErrArg)
 	mustBeNear(t, up, down, true)
 	mustBeNear(t, up, down[1:], true)

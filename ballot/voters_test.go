@@ -243,7 +243,8 @@ func TestCommonOfStrangeIndices(t *testing.T) {
 	}
 }
 
-// P15.1: of voters that may not be each number counts once; for what is no store there is no index.
+// P15.1: of voters that may not be each number counts once, here with no index for what is no
+// store; those that have one are asked for below.
 func TestCommonOfVotersThatMayNotBe(t *testing.T) {
 	for _, x := range []struct {
 		voters, at []int
@@ -270,9 +271,6 @@ func TestCommonOfVotersThatMayNotBe(t *testing.T) {
 		{list(-1, 0, 1, 2, 3), list(9, 8, 7, 9, 9), 7},
 		{list(math.MinInt, 1, 2, 3, math.MaxInt), list(9, 8, 7, 9, 9), 7},
 		{list(1, 2, 3, 4, 5, 6), list(9, 8, 7, 6, 5), 6},
-		{list(6), list(9, 9, 9, 9, 9, 9), 0}, // the list goes on, but 6 is no store
-		{list(1, 6, 7), list(9, 9, 9, 9, 9, 9, 9), 0},
-		{list(1, 2, 6), list(7, 8, 9, 9, 9, 9, 9), 7},
 		{list(0, 0, 0, 1, 2), list(9, 8), 8},
 		{list(0, 1), list(-9), 0},
 	} {
@@ -280,10 +278,98 @@ func TestCommonOfVotersThatMayNotBe(t *testing.T) {
 	}
 }
 
+// P15.1: a number above MaxStores has the index in its place, if the list of indices goes on that
+// far, and 0, if it stops ahead of it.
+func TestCommonOfNumbersAboveMaxStores(t *testing.T) {
+	for _, x := range []struct {
+		voters, at []int
+		want       int
+	}{
+		{list(6), list(0, 0, 0, 0, 0, 1), 1},
+		{list(6), list(9, 9, 9, 9, 9, 4), 4},
+		{list(6), list(9, 9, 9, 9, 9, 4, 9), 4},
+		{list(6), list(9, 9, 9, 9, 9), 0}, // it stops just ahead of 6
+		{list(6), list(9), 0},
+		{list(6), nil, 0},
+		{list(6), list(9, 9, 9, 9, 9, 0), 0},
+		{list(6), list(9, 9, 9, 9, 9, -4), 0},
+		{list(7), list(9, 9, 9, 9, 9, 9, 3), 3},
+		{list(7), list(9, 9, 9, 9, 9, 9), 0},
+		{list(9), list(1, 2, 3, 4, 5, 6, 7, 8, 9), 9},
+		{list(9), list(1, 2, 3, 4, 5, 6, 7, 8), 0},
+		{list(6, 6, 6), list(0, 0, 0, 0, 0, 2), 2},
+		{list(6, 6, 7), list(0, 0, 0, 0, 0, 3, 8), 3},
+		{list(7, 6), list(0, 0, 0, 0, 0, 8, 3), 3},
+		{list(6, 7), list(0, 0, 0, 0, 0, 8), 0}, // 7 has none
+		{list(1, 6), list(4, 0, 0, 0, 0, 9), 4},
+		{list(1, 6), list(9, 0, 0, 0, 0, 4), 4},
+		{list(1, 6), list(9, 9, 9, 9, 9), 0},
+		{list(1, 2, 6), list(7, 8, 9, 9, 9, 9, 9), 8},
+		{list(1, 2, 6), list(7, 8, 9, 9, 9), 7},
+		{list(1, 6, 7), list(1, 9, 9, 9, 9, 3, 2), 2},
+		{list(1, 6, 7), list(1, 9, 9, 9, 9, 3), 1},
+		{list(6, 7, 8), list(9, 9, 9, 9, 9, 3, 1, 2), 2},
+		{list(6, 7, 8), list(9, 9, 9, 9, 9, 3, 1), 1},
+		{list(6, 7, 8), list(9, 9, 9, 9, 9, 3), 0},
+		{list(1, 2, 3, 4, 5, 6), list(6, 5, 4, 3, 2, 1), 3},
+		{list(1, 2, 3, 4, 5, 6), list(1, 2, 3, 4, 5, 6), 3},
+		{list(1, 2, 3, 4, 5, 6), list(1, 2, 3, 4, 5), 2},
+		{list(1, 2, 3, 4, 5, 6, 7), list(1, 2, 3, 4, 5, 6, 7), 4},
+		{list(101, 6), list(9, 9, 9, 9, 9, 9, 9), 0},
+		{list(6, maxCount, math.MaxInt), list(9, 9, 9, 9, 9, 9, 9), 0},
+		{list(6, 7, math.MaxInt), list(9, 9, 9, 9, 9, 5, 6), 5},
+		{list(6), list(0, 0, 0, 0, 0, math.MaxInt), math.MaxInt},
+		{list(6), list(9, 9, 9, 9, 9, math.MinInt), 0},
+	} {
+		mustHaveCommon(t, x.voters, x.at, x.want)
+	}
+}
+
+// P15.1: the same of each number by itself, beside indices of each length.
+func TestCommonOfEachNumber(t *testing.T) {
+	for n := -3; n <= 20; n++ {
+		var at []int
+		for length := 0; length <= 22; length++ {
+			want := 0
+			if n >= 1 && n <= length {
+				want = 100 + n
+			}
+			mustHaveCommon(t, list(n), at, want)
+			mustHaveCommon(t, list(n, n), at, want)
+			at = append(at, 100+length+1)
+		}
+	}
+	for _, n := range []int{math.MinInt, math.MinInt + 1, math.MinInt32, math.MaxInt, math.MaxInt - 1, maxCount} {
+		mustHaveCommon(t, list(n), slices.Repeat(list(9), 40), 0)
+	}
+}
+
+// P15.1: a number below 1 has no index, however many there are, but counts as a voter.
+func TestCommonOfNumbersBelow1(t *testing.T) {
+	for _, at := range [][]int{nil, list(5), list(5, 5, 5, 5, 5, 5), slices.Repeat(list(5), 40)} {
+		for _, n := range []int{0, -1, -2, -5, -6, math.MinInt32, math.MinInt + 1, math.MinInt} {
+			mustHaveCommon(t, list(n), at, 0)
+			mustHaveCommon(t, list(n, 1), at, 0)
+			mustHaveCommon(t, list(6, n), at, 0)
+			mustHaveCommon(t, list(n, 6, 1), at, mindCommon(list(6, 1), at))
+			mustHaveCommon(t, list(n, n, n, 6, 7), at, mindCommon(list(6, 7), at))
+		}
+	}
+	mustHaveCommon(t, list(0, 6, 7), list(9, 9, 9, 9, 9, 5, 6), 5)
+	mustHaveCommon(t, list(-1, 0, 6, 7, 8), list(9, 9, 9, 9, 9, 5, 6, 4), 4)
+	mustHaveCommon(t, list(-1, 0, 6, 7, 8), list(9, 9, 9, 9, 9, 5, 6), 0)
+}
+
 // P15.1: all short lists of voters with all short lists of indices, and drawn ones.
 func TestCommonAsInMind(t *testing.T) {
 	for _, voters := range lists(3, -1, 0, 1, 2, 3, 6) {
 		for _, at := range lists(4, -1, 0, 1, 2) {
+			mustHaveCommon(t, voters, at, mindCommon(voters, at))
+		}
+	}
+	for _, voters := range lists(3, 0, 5, 6, 7, 8) {
+		for _, at := range lists(4, -1, 1, 2) {
+			at = append(list(9, 9, 9, 9), at...) // the last store's index and those behind it
 			mustHaveCommon(t, voters, at, mindCommon(voters, at))
 		}
 	}
@@ -296,6 +382,8 @@ func TestCommonAsInMind(t *testing.T) {
 		voters = r.numbers(9, ints()...)
 		mustHaveCommon(t, voters, at, mindCommon(voters, at))
 		voters, at = r.voters(), r.numbers(9, 0, 1, 2, 3, 4, 5, 6)
+		mustHaveCommon(t, voters, at, mindCommon(voters, at))
+		voters, at = r.numbers(7, -1, 0, 1, 4, 5, 6, 7, 8, 9, 10), r.numbers(10, ints()...)
 		mustHaveCommon(t, voters, at, mindCommon(voters, at))
 	}
 	for _, voters := range allVoters() {
